@@ -672,25 +672,32 @@ func TestParseCheck(t *testing.T) {
 	}
 }
 
-// P8.2: as many elements and balises as there can be, and one more.
+// P8.2: as many sections, elements, signals and balises as there can be, and one more; what else is wrong with the layout has another error.
 func TestParseLimits(t *testing.T) {
 	for _, c := range []struct {
 		text, line string
 		limit      int
+		err        api.Errno
 	}{
-		{"layout l\nsection s\n", "track a%d s 500 0 100\n", api.MaxElements},
-		{"layout l\nsection s\ntrack a s 500 0 100\n", "balise %d a 0\n", api.MaxBalises},
+		{"layout l\n", "section s%d\n", api.MaxSections, api.ErrLimit},
+		{"layout l\nsection s\n", "track a%d s 500 0 100\n", api.MaxElements, api.OK},
+		{"layout l\nsection s\ntrack a s 500 0 100\n", "signal s%d a 0 0\n", api.MaxSignals, api.ErrDuplicate},
+		{"layout l\nsection s\ntrack a s 500 0 100\n", "balise %d a 0\n", api.MaxBalises, api.OK},
 	} {
 		s := c.text
 		for i := range c.limit {
 			s += fmt.Sprintf(c.line, i+1)
 		}
 		checkByOther(t, s)
-		if _, at, e := Parse(s); at != 0 || e != api.OK {
-			t.Errorf("Parse(%s): error %d in the line %d", short(s), e, at)
+		if _, at, e := Parse(s); at != 0 || e != c.err {
+			t.Errorf("Parse(%s): error %d in the line %d, want %d", short(s), e, at, c.err)
 		}
 		checkError(t, s+fmt.Sprintf(c.line, c.limit+1), 0, api.ErrLimit)
 	}
+	// Sections at the limit need elements, one each.
+	s, _ := Print(full())
+	checkParse(t, s, full(), 0, api.OK)
+	checkError(t, strings.Replace(s, "section", "section s\nsection", 1), 0, api.ErrLimit)
 }
 
 // P8.3: from layouts to texts and back; the text has a line more than the layout has parts.
