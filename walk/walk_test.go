@@ -36,7 +36,7 @@ func line() api.Layout {
 	}
 }
 
-// yard has elements of all kinds: points p in front of the tracks n and r, which lead over the crossing q to each other and to e. A second pair of points w, which is trailing from a on, stands in front of a.
+// yard has elements of all kinds: points p in front of the tracks n and r, which lead over the crossing q to each other and to e. The reverse leg of other points w leads to a.
 func yard() api.Layout {
 	return api.Layout{
 		Name:     "yard",
@@ -63,7 +63,7 @@ func yard() api.Layout {
 	}
 }
 
-// ring is a layout in which points are joined to themselves, one after the other in a ring of points and tracks.
+// ring has ways back to where they came from: both legs of the points p are joined, the reverse leg of the points o leads over b to their stem, and one track of the crossing c to the other one.
 func ring() api.Layout {
 	return api.Layout{
 		Name:     "ring",
@@ -101,7 +101,7 @@ func full() api.Layout {
 	return l
 }
 
-// ladder is a layout of the greatest size in which points lie the other way round in turn, each leg of one joined to the leg of the next one of the same number.
+// ladder is a layout of the greatest size that consists of points, whose stems and whose legs are joined in turn: there are two ways from each stem to the next one.
 func ladder() api.Layout {
 	l := api.Layout{Name: "ladder", Sections: []string{"x"}}
 	for i := range api.MaxElements {
